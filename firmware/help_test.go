@@ -71,10 +71,8 @@ func flash(x pair) *api.Flash {
 // apply feeds chunks; the first error.
 func apply(f *api.Flash, chunks ...[]byte) (*firmware.Applier, error) {
 	a := firmware.New(f)
-	for _, c := range chunks {
-		if err := a.Feed(c); err != nil {
-			return a, err
-		}
+	if err := feedAll(a, chunks); err != nil {
+		return a, err
 	}
 	return a, a.Finish()
 }

@@ -11,56 +11,128 @@ import (
 	"firmware/layout"
 )
 
-// wantWrong asks that bytes are refused, however they are cut.
-func wantWrong(t *testing.T, x pair, fed []byte) {
-	t.Helper()
-	var first api.Errno
-	for i, chunks := range [][][]byte{{fed}, slices.Collect(slices.Chunk(fed, 1))} {
-		f := flash(x)
-		_, err := apply(f, chunks...)
-		n := api.Tell(err)
-		if n < api.ErrPatch || n > api.ErrEnd {
-			t.Fatalf("wrong bytes: error %d", n)
-		}
-		if i > 0 && n != first {
-			t.Fatalf("cut otherwise: errors %d and %d", first, n)
-		}
-		first = n
-		wantNothing(t, f, x.old)
-	}
-}
-
 // few are pairs with patches that are not long.
 func few() []pair {
 	old := count()
 	return []pair{{nil, nil}, {nil, old[:3]}, {old, nil}, {old, old}, {old[:60], old[:130]}, {old, slices.Concat(old[128:], []byte("more"), old[:128])}}
 }
 
-// P5: a turned bit is always seen.
+// P5, P6, P8: a turned bit is always seen: each one of short patches.
 func TestTurnedBits(t *testing.T) {
+	r := rand.New(rand.NewSource(30))
 	for _, x := range few() {
+		p := generate(t, x.old, x.next)
+		for bit := range 8 * len(p) {
+			q := turned(p, bit)
+			wantRefused(t, justFor(x), fewCuts(r, q)...)
+			// With room behind the image a greater length of it is not refused for its size.
+			wantRefused(t, device{x.old, 64}, [][]byte{q})
+		}
+	}
+}
+
+// turned gives bytes with one bit turned.
+func turned(p []byte, bit int) []byte {
+	q := slices.Clone(p)
+	q[bit/8] ^= 1 << (bit % 8)
+	return q
+}
+
+// P5, P6, P8: a turned bit of long patches: each one of the first bytes and of the last ones, and one of each byte between.
+func TestTurnedBitsOfLongPatches(t *testing.T) {
+	for _, x := range longPairs() {
 		p := generate(t, x.old, x.next)
 		for i := range p {
 			for bit := range 8 {
-				p[i] ^= 1 << bit
-				wantWrong(t, x, p)
-				p[i] ^= 1 << bit
+				if i < 20 || i >= len(p)-20 || bit == i%8 {
+					wantRefused(t, justFor(x), [][]byte{turned(p, 8*i+bit)})
+				}
 			}
 		}
 	}
 }
 
-// P1, P5: any bytes are refused, and none panics.
+// P5: a bit that is turned at the end alone is seen behind all pages, and they are not committed.
+func TestTurnedAtTheEnd(t *testing.T) {
+	for _, x := range pairs() {
+		p := generate(t, x.old, x.next)
+		d := justFor(x)
+		wantError(t, "the last bit turned", d, api.ErrPatch, [][]byte{turned(p, 8*len(p)-8)})
+	}
+}
+
+// P5: another byte at any place.
+func TestOtherBytes(t *testing.T) {
+	for _, x := range few() {
+		p := generate(t, x.old, x.next)
+		for i := range p {
+			for add := 1; add < 256; add += 1 + i%3 {
+				q := slices.Clone(p)
+				q[i] += byte(add)
+				wantRefused(t, justFor(x), [][]byte{q})
+			}
+		}
+	}
+}
+
+// P1, P5, P6, P8: any bytes are refused, however they are cut.
 func TestAnyBytes(t *testing.T) {
 	r := rand.New(rand.NewSource(6))
 	for _, x := range few() {
-		p := generate(t, x.old, x.next)
-		for range 1500 {
-			q := slices.Concat(p[:r.Intn(len(p)+1)], some(r, 1+r.Intn(30), 256), p[r.Intn(len(p)+1):])
-			if !bytes.Equal(q, p) {
-				wantWrong(t, x, q)
+		for range 700 {
+			wantRefused(t, justFor(x), fewCuts(r, some(r, r.Intn(60), 1+r.Intn(256)))...)
+		}
+		wantRefused(t, justFor(x), waysToCut(r, some(r, 20000, 256))...)
+		for b := range 256 {
+			for _, n := range []int{1, 2, 15, 23, 24, 100, 5000} {
+				row := bytes.Repeat([]byte{byte(b)}, n)
+				wantRefused(t, justFor(x), [][]byte{row}, slices.Collect(slices.Chunk(row, 7)))
 			}
-			wantWrong(t, x, some(r, r.Intn(60), 256))
+		}
+	}
+}
+
+// P1, P5, P6, P8: patches with bytes put in, taken out, written over and moved are refused, however they are cut.
+func TestSpoiltPatches(t *testing.T) {
+	r := rand.New(rand.NewSource(31))
+	for _, x := range few() {
+		p := generate(t, x.old, x.next)
+		for range 700 {
+			if q := spoilt(r, p); !bytes.Equal(q, p) {
+				wantRefused(t, justFor(x), fewCuts(r, q)...)
+			}
+		}
+	}
+}
+
+// spoilt takes the bytes of a patch up to one place and from another on, with any bytes between.
+func spoilt(r *rand.Rand, p []byte) []byte {
+	from, to := r.Intn(len(p)+1), r.Intn(len(p)+1)
+	between := some(r, r.Intn(30), 256)
+	switch r.Intn(4) {
+	case 0:
+		between = nil
+	case 1:
+		to = min(from+len(between), len(p))
+	case 2:
+		to = from
+	}
+	return slices.Concat(p[:from], between, p[to:])
+}
+
+// P5: the beginning of one patch and the end of another one for the same image.
+func TestMixedPatches(t *testing.T) {
+	r := rand.New(rand.NewSource(32))
+	old := count()
+	d := device{old, 8}
+	p, q := generate(t, old, slices.Concat(old[:100], []byte("one"), old[100:])), generate(t, old, slices.Concat(old[:100], []byte("two"), old[100:]))
+	if len(p) != len(q) {
+		t.Fatalf("patches of %d and %d bytes", len(p), len(q))
+	}
+	for i := range p {
+		mixed := slices.Concat(p[:i], q[i:])
+		if !bytes.Equal(mixed, p) && !bytes.Equal(mixed, q) {
+			wantRefused(t, d, fewCuts(r, mixed)...)
 		}
 	}
 }
@@ -72,12 +144,9 @@ func TestAnyParts(t *testing.T) {
 		for range 3000 {
 			size := r.Intn(len(x.next) + 1)
 			f := flash(x)
-			_, err := apply(f, layout.Wrap(x.old, size, some(r, r.Intn(60), 256)))
-			if err != nil {
-				if n := api.Tell(err); n < api.ErrPatch || n > api.ErrEnd {
-					t.Fatalf("wrong parts: error %d", n)
-				}
-				wantNothing(t, f, x.old)
+			row := layout.Wrap(x.old, size, some(r, r.Intn(60), 256))
+			if _, err := apply(f, row); err != nil {
+				wantRefused(t, justFor(x), fewCuts(r, row)...)
 			} else if b, ok := f.Image(); !ok || len(b) != size {
 				t.Fatalf("no error, but %d bytes are committed: %v", len(b), ok)
 			}
@@ -96,84 +165,21 @@ func TestPartsBeyond(t *testing.T) {
 		{Kind: layout.Fresh, Size: 129},
 		{Kind: layout.Fresh + 1, Size: 1},
 	} {
-		f := api.NewFlash(old, 2)
-		_, err := apply(f, layout.Wrap(old, 128, layout.AppendPart(nil, part, make([]byte, 129))))
-		wantTell(t, "a part beyond an image", err, api.ErrPatch)
-		wantNothing(t, f, old)
+		row := layout.Wrap(old, 128, layout.AppendPart(nil, part, make([]byte, 129)))
+		wantError(t, "a part beyond an image", device{old, 2}, api.ErrPatch, [][]byte{row}, slices.Collect(slices.Chunk(row, 1)))
 	}
 }
 
 // P5: a head that tells another length of the patch, under a right seal.
 func TestOtherTotal(t *testing.T) {
+	r := rand.New(rand.NewSource(33))
 	for _, x := range few() {
 		p := generate(t, x.old, x.next)
 		body := p[:len(p)-layout.SumSize]
-		for bit := range 8 {
-			q := slices.Clone(body)
-			q[14] ^= 1 << bit
+		for bit := 8 * 13; bit < 8*15; bit++ {
+			q := turned(body, bit)
 			sum := uint64(layout.Start.AddAll(q))
-			wantWrong(t, x, binary.BigEndian.AppendUint64(q, sum))
+			wantRefused(t, justFor(x), fewCuts(r, binary.BigEndian.AppendUint64(q, sum))...)
 		}
 	}
-}
-
-// P5: too few bytes and too many.
-func TestShortAndEnd(t *testing.T) {
-	for _, x := range few() {
-		p := generate(t, x.old, x.next)
-		for n := range p {
-			f := flash(x)
-			a, err := apply(f, p[:n])
-			wantTell(t, "too few bytes", err, api.ErrShort)
-			wantTell(t, "Finish again", a.Finish(), api.ErrShort)
-			wantNothing(t, f, x.old)
-		}
-		for _, more := range [][]byte{{0}, {255}, p, count()} {
-			f := flash(x)
-			_, err := apply(f, p, more)
-			wantTell(t, "more bytes", err, api.ErrEnd)
-			wantNothing(t, f, x.old)
-		}
-	}
-}
-
-// P5: a patch for another old image, ahead of all else that is wrong.
-func TestOtherOldImage(t *testing.T) {
-	old, next := count(), slices.Concat(count(), count())
-	p := generate(t, old, next)
-	others := [][]byte{nil, old[:255], old[1:], slices.Concat(old, []byte{0})}
-	for i := range old {
-		b := slices.Clone(old)
-		b[i] ^= 1 << (i % 8)
-		others = append(others, b)
-	}
-	for _, other := range others {
-		for _, chunks := range [][][]byte{{p}, {p, {1}}} {
-			f := api.NewFlash(other, 8)
-			_, err := apply(f, chunks...)
-			wantTell(t, "another old image", err, api.ErrOld)
-			f = api.NewFlash(other, 1)
-			_, err = apply(f, chunks...)
-			wantTell(t, "another old image, and too small a slot", err, api.ErrOld)
-			wantNothing(t, f, other)
-		}
-	}
-}
-
-// P5: an image that is too long for the slot.
-func TestTooSmallSlot(t *testing.T) {
-	old := count()[:60]
-	for _, n := range []int{129, 200, 4096} {
-		p := generate(t, old, make([]byte, n))
-		for _, chunks := range [][][]byte{{p}, {p, {1}}} {
-			f := api.NewFlash(old, 2)
-			_, err := apply(f, chunks...)
-			wantTell(t, "too small a slot", err, api.ErrSize)
-			wantNothing(t, f, old)
-		}
-	}
-	f := api.NewFlash(old, 2)
-	_, err := apply(f, generate(t, old, make([]byte, 128)))
-	wantTell(t, "a slot that is full", err, api.OK)
-	wantImage(t, f, make([]byte, 128))
 }
