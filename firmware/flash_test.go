@@ -96,26 +96,3 @@ func TestNothingBehindAnError(t *testing.T) {
 		}
 	}
 }
-
-// P9: the power may be cut anywhere: the old image stays, and the patch can be applied again.
-func TestPowerCut(t *testing.T) {
-	for _, x := range few() {
-		p := generate(t, x.old, x.next)
-		for after := 0; ; after++ {
-			f := flash(x)
-			f.Cut(after, byte(after*37))
-			a, err := apply(f, p)
-			if err == nil {
-				wantImage(t, f, x.next)
-				break
-			}
-			wantTell(t, "without power", err, api.ErrPower)
-			wantNothing(t, f, x.old)
-			f.Restore()
-			still(t, f, a, api.ErrPower)
-			_, err = apply(f, p)
-			wantTell(t, "applied again", err, api.OK)
-			wantImage(t, f, x.next)
-		}
-	}
-}
